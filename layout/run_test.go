@@ -109,12 +109,11 @@ func checkTiling(t *testing.T, what string, l []api.Cell) {
 	}
 }
 
-// cellsOf gives each pane's cell, but for its depth, which may change where nothing else does.
+// cellsOf gives each pane's cell.
 func cellsOf(l []api.Cell) map[int]api.Cell {
 	cells := map[int]api.Cell{}
 	for _, c := range l {
 		if c.Kind == api.CellPane {
-			c.Depth = 0
 			cells[c.Pane] = c
 		}
 	}

@@ -55,7 +55,7 @@ func inRuns(t *testing.T, runs int, play func(t *testing.T, seed int64) map[stri
 // Long runs of entries of a server: no mirror is ever broken (M6), each knows all as soon as its client has taken all (P8, P9), at
 // times of calm too (P13), and what was told is a beginning of a word (P3), the events' own text (P4), with a block a line (P5).
 func TestM6LongRuns(t *testing.T) {
-	met := inRuns(t, 135, func(t *testing.T, seed int64) map[string]int {
+	met := inRuns(t, 90, func(t *testing.T, seed int64) map[string]int {
 		g := newStage(t, seed)
 		for i := range 500 {
 			if g.d.chance(3) {

@@ -63,38 +63,38 @@ var (
 	nothing = pressed{}
 )
 
-func open1(until int) Walk { return Walk{"prefix", until} }
+func openTo(until int) Walk { return Walk{"prefix", until} }
 
 func TestBI4StandingOpen(t *testing.T) {
 	wantSteps(t, pressing(t), prefixKey, []step{
 		// A binding that repeats: below Until, at it and above it.
-		{open1(7), again, 5, 2, pressed{open1(7), "U", false}},
-		{open1(7), again, 6, 2, pressed{open1(8), "U", false}},
-		{open1(7), again, 7, 2, pressed{open1(9), "U", false}},
-		{open1(7), again, 8, 2, pane},
-		{open1(7), again, 0, 2, pressed{open1(2), "U", false}},
-		{open1(1), again, 1, 1, pressed{open1(2), "U", false}},
-		{open1(1), again, 2, 1, pane},
-		{open1(7), empty, 7, 2, pressed{open1(9), "", false}},
-		{open1(7), empty, 8, 2, nothing},
+		{openTo(7), again, 5, 2, pressed{openTo(7), "U", false}},
+		{openTo(7), again, 6, 2, pressed{openTo(8), "U", false}},
+		{openTo(7), again, 7, 2, pressed{openTo(9), "U", false}},
+		{openTo(7), again, 8, 2, pane},
+		{openTo(7), again, 0, 2, pressed{openTo(2), "U", false}},
+		{openTo(1), again, 1, 1, pressed{openTo(2), "U", false}},
+		{openTo(1), again, 2, 1, pane},
+		{openTo(7), empty, 7, 2, pressed{openTo(9), "", false}},
+		{openTo(7), empty, 8, 2, nothing},
 		// How long it stands open.
-		{open1(7), again, 7, 1, pressed{open1(8), "U", false}},
-		{open1(7), again, 7, 0, pressed{rest, "U", false}},
-		{open1(7), again, 7, -1, pressed{rest, "U", false}},
-		{open1(7), again, 7, math.MinInt, pressed{rest, "U", false}},
-		{open1(7), again, 8, 0, pane},
+		{openTo(7), again, 7, 1, pressed{openTo(8), "U", false}},
+		{openTo(7), again, 7, 0, pressed{rest, "U", false}},
+		{openTo(7), again, 7, -1, pressed{rest, "U", false}},
+		{openTo(7), again, 7, math.MinInt, pressed{rest, "U", false}},
+		{openTo(7), again, 8, 0, pane},
 		// None that repeats: as at rest.
-		{open1(7), once, 6, 2, pane},
-		{open1(7), once, 8, 2, pane},
-		{open1(7), unbound, 6, 2, pane},
-		{open1(7), unbound, 8, 2, pane},
-		{open1(7), prefixKey, 6, 2, pressed{behind, "", false}},
-		{open1(7), prefixKey, 8, 2, pressed{behind, "", false}},
-		{open1(7), atRoot, 6, 2, pressed{rest, "R", false}},
-		{open1(7), atRoot, 8, 2, pressed{rest, "R", false}},
+		{openTo(7), once, 6, 2, pane},
+		{openTo(7), once, 8, 2, pane},
+		{openTo(7), unbound, 6, 2, pane},
+		{openTo(7), unbound, 8, 2, pane},
+		{openTo(7), prefixKey, 6, 2, pressed{behind, "", false}},
+		{openTo(7), prefixKey, 8, 2, pressed{behind, "", false}},
+		{openTo(7), atRoot, 6, 2, pressed{rest, "R", false}},
+		{openTo(7), atRoot, 8, 2, pressed{rest, "R", false}},
 		// Bound in root too: by prefix in time, by root behind it.
-		{open1(7), both, 7, 2, pressed{open1(9), "W", false}},
-		{open1(7), both, 8, 2, pressed{rest, "root W", false}},
+		{openTo(7), both, 7, 2, pressed{openTo(9), "W", false}},
+		{openTo(7), both, 8, 2, pressed{rest, "root W", false}},
 	})
 }
 
@@ -102,16 +102,16 @@ func TestBI4StandingOpen(t *testing.T) {
 func TestBI4StandingOpenThePrefixKey(t *testing.T) {
 	p := pressing(t)
 	wantSteps(t, p, again, []step{
-		{open1(7), again, 7, 2, pressed{open1(9), "U", false}},
-		{open1(7), again, 8, 2, pressed{behind, "", false}},
-		{open1(7), again, 7, 0, pressed{rest, "U", false}},
+		{openTo(7), again, 7, 2, pressed{openTo(9), "U", false}},
+		{openTo(7), again, 8, 2, pressed{behind, "", false}},
+		{openTo(7), again, 7, 0, pressed{rest, "U", false}},
 	})
 	wantSteps(t, p, once, []step{
-		{open1(7), once, 7, 2, pressed{behind, "", false}},
-		{open1(7), once, 8, 2, pressed{behind, "", false}},
+		{openTo(7), once, 7, 2, pressed{behind, "", false}},
+		{openTo(7), once, 8, 2, pressed{behind, "", false}},
 	})
 	wantSteps(t, p, both, []step{
-		{open1(7), both, 8, 2, pressed{behind, "", false}},
+		{openTo(7), both, 8, 2, pressed{behind, "", false}},
 	})
 }
 
@@ -119,13 +119,13 @@ func TestBI4BehindThePrefix(t *testing.T) {
 	wantSteps(t, pressing(t), prefixKey, []step{
 		{behind, once, 5, 2, pressed{rest, "S", false}},
 		{behind, once, 5, 0, pressed{rest, "S", false}},
-		{behind, again, 5, 2, pressed{open1(7), "U", false}},
-		{behind, again, 5, 1, pressed{open1(6), "U", false}},
+		{behind, again, 5, 2, pressed{openTo(7), "U", false}},
+		{behind, again, 5, 1, pressed{openTo(6), "U", false}},
 		{behind, again, 5, 0, pressed{rest, "U", false}},
 		{behind, again, 5, -1, pressed{rest, "U", false}},
 		{behind, again, 5, math.MinInt, pressed{rest, "U", false}},
-		{behind, again, 0, 1, pressed{open1(1), "U", false}},
-		{behind, empty, 5, 2, pressed{open1(7), "", false}},
+		{behind, again, 0, 1, pressed{openTo(1), "U", false}},
+		{behind, empty, 5, 2, pressed{openTo(7), "", false}},
 		{behind, empty, 5, 0, nothing},
 		{behind, both, 5, 0, pressed{rest, "W", false}},
 		{behind, atRoot, 5, 2, nothing},
@@ -139,12 +139,12 @@ func TestBI4BehindThePrefix(t *testing.T) {
 func TestBI4UntilBelowOne(t *testing.T) {
 	for _, until := range []int{0, -1, -5, math.MinInt} {
 		wantSteps(t, pressing(t), prefixKey, []step{
-			{open1(until), once, 9, 2, pressed{rest, "S", false}},
-			{open1(until), again, 9, 2, pressed{open1(11), "U", false}},
-			{open1(until), again, 9, 0, pressed{rest, "U", false}},
-			{open1(until), unbound, 9, 2, nothing},
-			{open1(until), atRoot, 9, 2, nothing},
-			{open1(until), prefixKey, 9, 2, pressed{rest, "send-prefix", false}},
+			{openTo(until), once, 9, 2, pressed{rest, "S", false}},
+			{openTo(until), again, 9, 2, pressed{openTo(11), "U", false}},
+			{openTo(until), again, 9, 0, pressed{rest, "U", false}},
+			{openTo(until), unbound, 9, 2, nothing},
+			{openTo(until), atRoot, 9, 2, nothing},
+			{openTo(until), prefixKey, 9, 2, pressed{rest, "send-prefix", false}},
 		})
 	}
 }
@@ -153,8 +153,8 @@ func TestBI4UntilBelowOne(t *testing.T) {
 func TestBI4ThePrefixKeyIsBound(t *testing.T) {
 	p := pressing(t)
 	wantSteps(t, p, once, []step{{behind, once, 5, 2, pressed{rest, "S", false}}, {rest, once, 5, 2, pressed{behind, "", false}}})
-	wantSteps(t, p, again, []step{{behind, again, 5, 2, pressed{open1(7), "U", false}}, {behind, again, 5, 0, pressed{rest, "U", false}}})
-	wantSteps(t, p, empty, []step{{behind, empty, 5, 2, pressed{open1(7), "", false}}, {behind, empty, 5, 0, nothing}})
+	wantSteps(t, p, again, []step{{behind, again, 5, 2, pressed{openTo(7), "U", false}}, {behind, again, 5, 0, pressed{rest, "U", false}}})
+	wantSteps(t, p, empty, []step{{behind, empty, 5, 2, pressed{openTo(7), "", false}}, {behind, empty, 5, 0, nothing}})
 	p.unbind("prefix", once, api.OK)
 	wantSteps(t, p, once, []step{{behind, once, 5, 2, pressed{rest, "send-prefix", false}}})
 	p.bind(api.Binding{Table: "prefix", Key: prefixKey, Line: "bound"}, api.OK)
@@ -222,19 +222,19 @@ func TestBI4GreatTicks(t *testing.T) {
 		{0, most, most}, {1, most, most}, {1, most - 1, most}, {2, most - 1, most}, {0, most - 1, most - 1}, {most / 2, most/2 + 1, most}, {most/2 + 1, most/2 + 1, most},
 		{-1, most, most - 1}, {-1, 1, 0}, {-5, 2, -3}, {math.MinInt, 1, math.MinInt + 1}, {math.MinInt, most, -1}, {math.MinInt + 1, most, 0},
 	} {
-		want := pressed{open1(c.until), "U", false}
+		want := pressed{openTo(c.until), "U", false}
 		wantSteps(t, pressing(t), prefixKey, []step{
 			{behind, again, c.tick, c.repeat, want},
-			{open1(most), again, c.tick, c.repeat, want},
-			{open1(max(1, c.tick)), again, c.tick, c.repeat, want},
+			{openTo(most), again, c.tick, c.repeat, want},
+			{openTo(max(1, c.tick)), again, c.tick, c.repeat, want},
 			{behind, again, c.tick, 0, pressed{rest, "U", false}},
 			{behind, once, c.tick, c.repeat, pressed{rest, "S", false}},
 		})
 	}
 	wantSteps(t, pressing(t), prefixKey, []step{
-		{open1(most - 1), again, most, 1, pane},
-		{open1(most), again, most, 1, pressed{open1(most), "U", false}},
-		{open1(1), again, math.MinInt, 1, pressed{open1(math.MinInt + 1), "U", false}},
+		{openTo(most - 1), again, most, 1, pane},
+		{openTo(most), again, most, 1, pressed{openTo(most), "U", false}},
+		{openTo(1), again, math.MinInt, 1, pressed{openTo(math.MinInt + 1), "U", false}},
 	})
 }
 
@@ -245,7 +245,7 @@ func TestBI4KeysThatAreNone(t *testing.T) {
 		wantSteps(t, p, k, []step{
 			{rest, k, 5, 2, pressed{behind, "", false}},
 			{behind, k, 5, 2, pressed{rest, "send-prefix", false}},
-			{open1(7), k, 5, 2, pressed{behind, "", false}},
+			{openTo(7), k, 5, 2, pressed{behind, "", false}},
 			{Walk{"menu", 0}, k, 5, 2, nothing},
 			{rest, prefixKey, 5, 2, pane},
 			{behind, prefixKey, 5, 2, nothing},
@@ -254,7 +254,7 @@ func TestBI4KeysThatAreNone(t *testing.T) {
 		wantSteps(t, p, prefixKey, []step{
 			{rest, k, 5, 2, pane},
 			{behind, k, 5, 2, nothing},
-			{open1(7), k, 5, 2, pane},
+			{openTo(7), k, 5, 2, pane},
 			{Walk{"menu", 7}, k, 5, 2, nothing},
 		})
 	}
@@ -298,7 +298,7 @@ func TestBI4TheBeginning(t *testing.T) {
 	for _, b := range firstBook().all {
 		want := pressed{rest, b.Line, false}
 		if b.Repeat {
-			want.walk = open1(13)
+			want.walk = openTo(13)
 		}
 		wantSteps(t, p, prefixKey, []step{{Walk{Table: b.Table}, b.Key, 10, 3, want}, {rest, b.Key, 10, 3, pane}})
 	}

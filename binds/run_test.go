@@ -84,7 +84,7 @@ func without(list []api.Binding, table string, k api.Key) []api.Binding {
 
 // What the promise says, without the model: one binding is told, or is none, and every other one is as it was.
 func TestBI5OneAlone(t *testing.T) {
-	for seed := range 40 {
+	for seed := range 15 {
 		d := dealt(1000 + seed)
 		tables := New()
 		for range 300 {

@@ -230,7 +230,7 @@ func (b *book) do(verb string, scope, id int, name, value string) api.Errno {
 
 // Two that are used in turns do not know of one another.
 func TestRule4TwoInTurns(t *testing.T) {
-	for seed := range 10 {
+	for seed := range 4 {
 		a, b := begun(t), filled(t, 490*(seed%2))
 		da, db := dealt(4000+seed), dealt(5000+seed)
 		for range 40 {

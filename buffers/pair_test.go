@@ -83,15 +83,19 @@ func shortList(list []api.Buffer) string {
 // absent are names of which there is no buffer, unless a test has made one.
 var absent = []string{"nothing", "buffer", "buffer00", "buffer01", "Buffer0", "buffer-1", "buffer+1", "buffer99999", " ", "a b", ".", "\x00", "\xff"}
 
+func (p *pair) lookList() *pair {
+	p.t.Helper()
+	if got, want := p.buffers.List(), p.book.list(); !slices.Equal(got, want) {
+		p.wrong("List is %s, and not %s", shortList(got), shortList(want))
+	}
+	return p
+}
+
 // look asks for all that can be asked for.
 func (p *pair) look() *pair {
 	p.t.Helper()
-	got, want := p.buffers.List(), p.book.list()
-	if !slices.Equal(got, want) {
-		p.wrong("List is %s, and not %s", shortList(got), shortList(want))
-	}
-	p.get("")
-	for _, b := range want {
+	p.lookList().get("")
+	for _, b := range p.book.list() {
 		p.get(b.Name)
 	}
 	for _, name := range absent {
@@ -122,7 +126,7 @@ func (p *pair) probe() *pair {
 	f.look()
 	f = p.forked()
 	for n := api.MaxBuffers; n > 0; n-- {
-		f.limit(n, api.OK).look()
+		f.limit(n, api.OK).lookList()
 	}
 	f = p.forked()
 	for i := range api.MaxBuffers + 1 {
